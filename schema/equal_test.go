@@ -3,6 +3,7 @@ package schema_test
 import (
 	"fmt"
 	"reflect"
+	"runtime"
 	"slices"
 	"testing"
 
@@ -170,12 +171,15 @@ func TestCopiesHaveTheirOwnMemory(t *testing.T) {
 		d := made()
 		// The same fields stand in two messages, and there is room behind the messages.
 		d.Messages = append(slices.Concat(d.Messages, d.Messages), message("behind"))[:2*len(d.Messages)]
+		all := []api.Definition{d, schema.Copy(d), schema.Copy(d), schema.Copy(d)}
 		noted := map[uintptr]bool{}
-		memory(&d, noted)
-		for range 3 {
-			if c := schema.Copy(d); !memory(&c, noted) || !schema.Equal(c, d) {
+		memory(&all[0], noted)
+		for j := 1; j < len(all); j++ {
+			if !memory(&all[j], noted) || !schema.Equal(all[j], d) {
 				t.Errorf("definition %d: its copies have memory in common", i)
 			}
 		}
+		// A copy that nothing refers to any more could leave its memory to the next one.
+		runtime.KeepAlive(all)
 	}
 }
